@@ -96,7 +96,7 @@ func leaf(t api.Token) (api.Expr, api.Errno) {
 
 // takeSign reads the next token, if it is that sign.
 func (r *reader) takeSign(sign string) bool {
-	if r.count == len(r.tokens) || r.tokens[r.count].Kind != api.TokSign || r.tokens[r.count].Text != sign {
+	if r.count == len(r.tokens) || !isSign(r.tokens[r.count], sign) {
 		return false
 	}
 	r.count++
@@ -105,10 +105,13 @@ func (r *reader) takeSign(sign string) bool {
 
 // takeKind reads the next token, if it is the sign of a kind with so many Kids, of that strength: the kind, or 0.
 func (r *reader) takeKind(kids, strength int) int {
-	for kind, k := range kinds {
-		if k.kids == kids && k.strength == strength && r.takeSign(k.sign) {
-			return kind
-		}
+	if r.count == len(r.tokens) {
+		return 0
 	}
-	return 0
+	kind := kindOf(r.tokens[r.count], kids)
+	if kind == 0 || kinds[kind].strength != strength {
+		return 0
+	}
+	r.count++
+	return kind
 }

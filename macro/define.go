@@ -12,14 +12,15 @@ type macro func(calling line) ([]line, api.Errno)
 
 // define keeps the macro that a block is.
 func (w *work) define(b block) api.Errno {
-	names, err := words(b.first.behind())
-	if err != api.OK {
-		return err
+	l := b.first.behind()
+	if !listed(l) {
+		return api.ErrForm
 	}
-	name, params := names[0], names[1:]
-	if !named(name, params) {
+	names, ok := named(l)
+	if !ok {
 		return api.ErrName
 	}
+	name, params := names[0], names[1:]
 	if _, ok := w.macros[name]; ok {
 		return api.ErrName
 	}
@@ -30,60 +31,118 @@ func (w *work) define(b block) api.Errno {
 	return api.OK
 }
 
-// words answers the words of a text that has at least one, and commas behind words, but nothing else.
-func words(l text) ([]string, api.Errno) {
-	var out []string
-	for t := range l.all() {
+// listed answers whether a text is words, and commas, but none of these first.
+func listed(l text) bool {
+	if len(l) == 0 || comma(l[0].token) {
+		return false
+	}
+	other := func(p part) bool { return !word(p.token) }
+	for _, p := range l {
 		switch {
-		case t.Kind == api.TokWord:
-			out = append(out, t.Text)
-		case len(out) == 0 || !comma(t):
-			return nil, api.ErrForm
-		}
-	}
-	if len(out) == 0 {
-		return nil, api.ErrForm
-	}
-	return out, api.OK
-}
-
-// named answers whether all are names, and no parameter is there twice.
-func named(name string, params []string) bool {
-	count := map[string]int{}
-	for _, p := range params {
-		count[p]++
-		if !scan.Name(p) || count[p] > 1 {
+		case p.inner != nil && slices.ContainsFunc(p.inner.words(), other):
+			return false
+		case p.inner == nil && other(p) && !comma(p.token):
 			return false
 		}
 	}
-	return scan.Name(name)
+	return true
+}
+
+// named answers the words of a text of words and commas, if all are names, and none behind the first is there twice.
+// However long the text is, no more of it is looked at than what has each of its words once.
+func named(l text) ([]string, bool) {
+	var out []string
+	count := map[string]int{}
+	for t := range l.all() {
+		if comma(t) {
+			continue
+		}
+		if len(out) > 0 {
+			count[t.Text]++
+		}
+		if !scan.Name(t.Text) || count[t.Text] > 1 {
+			return nil, false
+		}
+		out = append(out, t.Text)
+	}
+	return out, true
 }
 
 // made answers a macro of those parameters and lines.
 func made(params []string, lines []line) macro {
-	// The lines are written out once, as what stands in them for another macro's parameters may be parameters here.
-	body := make([][]api.Token, len(lines))
-	for i, l := range lines {
-		body[i] = slices.Collect(l.all())
-	}
 	return func(calling line) ([]line, api.Errno) {
 		args := calling.behind().split()
 		if len(args) != len(params) {
 			return nil, api.ErrMany
 		}
-		stand := func(t api.Token) (text, bool) {
-			i := slices.Index(params, t.Text)
-			if t.Kind != api.TokWord || i < 0 {
-				return nil, false
-			}
-			return args[i], true
-		}
+		fill := filler(params, args)
 		var out []line
-		for _, tokens := range body {
-			if l := fill(tokens, stand); len(l) > 0 {
+		for _, l := range lines {
+			if l := fill(l.text); len(l) > 0 {
 				out = append(out, line{at: calling.at, text: l})
 			}
 		}
 		return out, api.OK
+	}
+}
+
+// filler answers what puts args into a text, where it has params, also within what stands there for another macro's parameters.
+func filler(params []string, args []*inner) func(l text) text {
+	param := func(p part) int {
+		if !word(p.token) {
+			return -1
+		}
+		return slices.Index(params, p.token.Text)
+	}
+	var fill func(l text) text
+	// What is one inner text before it is one behind it, or it would be written out as often as it stands anywhere.
+	filled := map[*inner]*inner{}
+	again := func(in *inner) *inner {
+		out, ok := filled[in]
+		if !ok {
+			out = refill(in, fill, func(p part) bool { return param(p) >= 0 })
+			filled[in] = out
+		}
+		return out
+	}
+	stand := func(p part) (part, bool) {
+		if p.inner != nil {
+			in := again(p.inner)
+			return part{inner: in}, in != nil
+		}
+		if i := param(p); i >= 0 {
+			return part{inner: args[i]}, args[i] != nil
+		}
+		return p, true
+	}
+	fill = func(l text) text {
+		out := make(text, 0, len(l))
+		for _, p := range l {
+			if p, ok := stand(p); ok {
+				out = append(out, p)
+			}
+		}
+		return out
+	}
+	return fill
+}
+
+// refill answers what fill makes of an inner text: nil, if that has no tokens. Its words alone tell whether it has,
+// so that it is not written out before its tokens are asked for.
+func refill(in *inner, fill func(l text) text, param func(p part) bool) *inner {
+	if !slices.ContainsFunc(in.words(), param) {
+		return in
+	}
+	if in.count <= few {
+		return enclose(fill(in.parts()))
+	}
+	words := fill(in.words())
+	if len(words) == 0 {
+		return nil
+	}
+	return &inner{
+		count: few + 1,
+		parts: once(func() text { return fill(in.parts()) }),
+		words: once(func() text { return distinct(words) }),
 	}
 }

@@ -7,14 +7,24 @@ import (
 	"platelayer/api"
 )
 
-// text is tokens, in turn. What stands for a parameter is one part of it, and is written out as late as may be:
-// macros that hand on their parameters many times, again and again, would have more tokens than there is room for.
+// few is how many tokens an inner text may have to be written out at once: more than these take less room, if they are not.
+const few = 64
+
+// text is tokens, in turn. What stands for a parameter is one part of it, that is the same wherever it stands, and is written out as
+// late as may be: macros that hand on their parameters many times, again and again, would have more tokens than there is room for.
 type text []part
 
-// part is a token, or, if it is not empty, a text that has no comma.
+// part is a token, or, if there is one, an inner text.
 type part struct {
 	token api.Token
-	inner text
+	inner *inner
+}
+
+// inner is a text that has tokens, but no comma.
+type inner struct {
+	count int // how many tokens it has, or, if it may have more than few, one more than these
+	parts func() text
+	words func() text // each word of it once, in turn, and one token for all that are no words
 }
 
 // line is a text, and which line of the source it is of.
@@ -27,21 +37,95 @@ type line struct {
 func read(l []api.Line) []line {
 	out := make([]line, len(l))
 	for i, x := range l {
-		out[i] = line{at: x.At, text: fill(x.Tokens, func(api.Token) (text, bool) { return nil, false })}
+		out[i].at = x.At
+		for _, t := range x.Tokens {
+			out[i].text = append(out[i].text, part{token: t})
+		}
 	}
 	return out
 }
 
-// fill answers tokens as a text; stand tells what stands for a token, if something does.
-func fill(l []api.Token, stand func(t api.Token) (text, bool)) text {
-	out := make(text, 0, len(l))
-	for _, t := range l {
-		inner, ok := stand(t)
-		switch {
-		case !ok:
+// write answers the lines that texts are.
+func write(l []line) []api.Line {
+	var out []api.Line
+	for _, x := range l {
+		out = append(out, api.Line{At: x.at, Tokens: slices.Collect(x.all())})
+	}
+	return out
+}
+
+// enclose answers l, that has no comma, as an inner text: nil, if it has no tokens.
+func enclose(l text) *inner {
+	switch {
+	case len(l) == 0:
+		return nil
+	case len(l) == 1 && l[0].inner != nil:
+		return l[0].inner
+	}
+	n := l.count()
+	if n <= few {
+		l = l.flat()
+	}
+	return &inner{count: n, parts: func() text { return l }, words: once(func() text { return distinct(l) })}
+}
+
+// count answers how many tokens a text has, or, if it may have more than few, one more than these.
+func (l text) count() int {
+	n := 0
+	for _, p := range l {
+		if n > few {
+			return few + 1
+		}
+		if p.inner != nil {
+			n += p.inner.count
+		} else {
+			n++
+		}
+	}
+	return min(n, few+1)
+}
+
+// flat answers a text without inner ones.
+func (l text) flat() text {
+	var out text
+	for t := range l.all() {
+		out = append(out, part{token: t})
+	}
+	return out
+}
+
+// once answers what get does, which is called once alone; it must answer parts.
+func once(get func() text) func() text {
+	var out text
+	return func() text {
+		if out == nil {
+			out = get()
+		}
+		return out
+	}
+}
+
+// distinct answers each word of a text once, in turn, and one token for all that are no words.
+func distinct(l text) text {
+	var out text
+	count := map[api.Token]int{}
+	take := func(t api.Token) {
+		if !word(t) {
+			t = api.Token{}
+		}
+		t.N = 0
+		count[t]++
+		if count[t] == 1 {
 			out = append(out, part{token: t})
-		case len(inner) > 0:
-			out = append(out, part{inner: inner})
+		}
+	}
+	for _, p := range l {
+		if p.inner == nil {
+			take(p.token)
+			continue
+		}
+		for _, q := range p.inner.words() {
+			take(q.token)
 		}
 	}
 	return out
@@ -49,58 +133,87 @@ func fill(l []api.Token, stand func(t api.Token) (text, bool)) text {
 
 // all tells the tokens of a text one by one.
 func (l text) all() iter.Seq[api.Token] {
-	return func(yield func(t api.Token) bool) { l.each(yield) }
-}
-
-// each tells tokens as long as yield takes more, and answers whether it took all.
-func (l text) each(yield func(t api.Token) bool) bool {
-	for _, p := range l {
-		switch {
-		case len(p.inner) > 0 && !p.inner.each(yield):
-			return false
-		case len(p.inner) == 0 && !yield(p.token):
-			return false
+	return func(yield func(t api.Token) bool) {
+		rest := []text{l}
+		for len(rest) > 0 {
+			last := len(rest) - 1
+			l := rest[last]
+			rest = rest[:last]
+			if len(l) == 0 {
+				continue
+			}
+			if len(l) > 1 {
+				rest = append(rest, l[1:])
+			}
+			if l[0].inner != nil {
+				rest = append(rest, l[0].inner.parts())
+			} else if !yield(l[0].token) {
+				return
+			}
 		}
 	}
-	return true
 }
 
 // head answers the first token, if that is a word, or else an empty text, that is nobody's head.
 func (l text) head() string {
-	for len(l) > 0 && len(l[0].inner) > 0 {
-		l = l[0].inner
+	if len(l) == 0 {
+		return ""
 	}
-	if len(l) == 0 || l[0].token.Kind != api.TokWord {
+	if l[0].inner != nil {
+		l = l[0].inner.words()
+	}
+	if !word(l[0].token) {
 		return ""
 	}
 	return l[0].token.Text
 }
 
-// behind answers the text without its first token; there must be one.
-func (l text) behind() text {
-	if len(l[0].inner) > 0 {
-		return slices.Concat(l[0].inner.behind(), l[1:])
+// next answers the first token, and what is behind it; of a text without tokens a token that is of no kind, and nothing.
+func (l text) next() (api.Token, text) {
+	if len(l) == 0 {
+		return api.Token{}, nil
 	}
-	return l[1:]
+	if l[0].inner == nil {
+		return l[0].token, l[1:]
+	}
+	behind := l[1:]
+	var within text
+	for l[0].inner != nil {
+		l = l[0].inner.parts()
+		// What is left of each stays one part: texts would else be longer each time.
+		if left := enclose(l[1:]); left != nil {
+			within = append(within, part{inner: left})
+		}
+	}
+	slices.Reverse(within)
+	return l[0].token, slices.Concat(within, behind)
+}
+
+// behind answers the text without its first token.
+func (l text) behind() text {
+	_, rest := l.next()
+	return rest
 }
 
 // split answers what stands between commas: nothing, if there is no token at all.
-func (l text) split() []text {
+func (l text) split() []*inner {
 	if len(l) == 0 {
 		return nil
 	}
-	var out []text
+	var out []*inner
 	from := 0
 	for i, p := range l {
-		if len(p.inner) == 0 && comma(p.token) {
-			out = append(out, l[from:i])
+		if p.inner == nil && comma(p.token) {
+			out = append(out, enclose(l[from:i]))
 			from = i + 1
 		}
 	}
-	return append(out, l[from:])
+	return append(out, enclose(l[from:]))
 }
 
 func comma(t api.Token) bool { return t.Kind == api.TokSign && t.Text == "," }
+
+func word(t api.Token) bool { return t.Kind == api.TokWord }
 
 // fault answers what is wrong at a line, or that nothing is.
 func (l line) fault(err api.Errno) api.Fault {
