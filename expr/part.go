@@ -40,19 +40,27 @@ func (p *Part) Err() api.Errno { return p.err }
 
 // Value answers what the expression is, if it began with p, and is all that is there: else ErrForm.
 func (p *Part) Value() (api.Value, api.Errno) {
+	if p.err != api.OK {
+		return api.Value{}, p.err
+	}
+	return p.First()
+}
+
+// First answers what the expression is that p began with, as long as may be: if p has an error beside it, another token stands behind it.
+func (p *Part) First() (api.Value, api.Errno) {
 	switch {
+	case p.spot.behind && p.spot.around == "":
+		v := p.total(p.open[0])
+		if p.unfit {
+			return api.Value{}, api.ErrFit
+		}
+		return v, api.OK
 	case p.err != api.OK:
 		return api.Value{}, p.err
 	case !p.spot.behind:
 		return api.Value{}, api.ErrEnd
-	case p.spot.around != "":
-		return api.Value{}, api.ErrForm
 	}
-	v := p.total(p.open[0])
-	if p.unfit {
-		return api.Value{}, api.ErrFit
-	}
-	return v, api.OK
+	return api.Value{}, api.ErrForm
 }
 
 // Add adds a token.

@@ -26,6 +26,16 @@ func whole(l []api.Token) (api.Value, api.Errno) {
 	return expr.Eval(e, partEqus)
 }
 
+// firstOf is what l begins with, by Parse and Eval, and whether that is all of it.
+func firstOf(l []api.Token) (api.Value, bool, api.Errno) {
+	e, n, err := expr.Parse(l)
+	if err != api.OK {
+		return api.Value{}, false, err
+	}
+	v, err := expr.Eval(e, partEqus)
+	return v, n == len(l), err
+}
+
 // partOf is the Part of l, token by token.
 func partOf(l []api.Token, spot expr.Spot) *expr.Part {
 	p := expr.From(spot, partEqus)
@@ -55,6 +65,10 @@ func wantWhole(t *testing.T, p *expr.Part, l []api.Token) api.Errno {
 	want, wantErr := whole(l)
 	if v, err := p.Value(); v != want || err != wantErr {
 		t.Fatalf("%v is by parts %v %v, not %v %v", l, v, err, want, wantErr)
+	}
+	first, all, firstErr := firstOf(l)
+	if v, err := p.First(); v != first || err != firstErr || err == api.OK && all != (p.Err() == api.OK) {
+		t.Fatalf("%v begins by parts with %v %v, and then %v, not with %v %v", l, v, err, p.Err(), first, firstErr)
 	}
 	return wantErr
 }

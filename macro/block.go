@@ -16,9 +16,9 @@ const (
 
 // block is what stands from a head up to the end that is its own.
 type block struct {
-	first line   // the head's own
-	lines []line // up to the end, or to the .else of an .if
-	other []line // behind that .else
+	first Line   // the head's own
+	lines []Line // up to the end, or to the .else of an .if
+	other []Line // behind that .else
 	count int    // lines in all, the first and the last one too
 }
 
@@ -34,7 +34,7 @@ func endOf(head string) string {
 }
 
 // cut answers the block that l begins with: ErrEnd, if it does not end; ErrForm, at its end, if more stands behind that, or behind its .else.
-func cut(l []line) (block, api.Fault) {
+func cut(l []Line) (block, api.Fault) {
 	middle, end := find(l)
 	if end == 0 {
 		return block{}, l[0].fault(api.ErrEnd)
@@ -50,7 +50,7 @@ func cut(l []line) (block, api.Fault) {
 }
 
 // find answers where the end of what l begins with stands (0: nowhere), and where its own .else does, or else the end again.
-func find(l []line) (int, int) {
+func find(l []Line) (int, int) {
 	begin := l[0].head()
 	last := endOf(begin)
 	middle, open := 0, 0
@@ -77,4 +77,4 @@ func find(l []line) (int, int) {
 }
 
 // more answers whether a line has more than its head.
-func more(l line) bool { return len(l.behind()) > 0 }
+func more(l Line) bool { return len(l.behind()) > 0 }

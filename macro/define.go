@@ -8,7 +8,7 @@ import (
 )
 
 // macro answers the lines that come of a line that calls it: ErrMany, if that has not as many as there are parameters.
-type macro func(calling line) ([]line, api.Errno)
+type macro func(calling Line) ([]Line, api.Errno)
 
 // define keeps the macro that a block is.
 func (w *work) define(b block) api.Errno {
@@ -32,7 +32,7 @@ func (w *work) define(b block) api.Errno {
 }
 
 // listed answers whether a text is words, and commas, but none of these first.
-func listed(l text) bool {
+func listed(l Text) bool {
 	if len(l) == 0 || comma(l[0].token) {
 		return false
 	}
@@ -50,7 +50,7 @@ func listed(l text) bool {
 
 // named answers the words of a text of words and commas, if all are names, and none behind the first is there twice.
 // However long the text is, no more of it is looked at than what has each of its words once.
-func named(l text) ([]string, bool) {
+func named(l Text) ([]string, bool) {
 	var out []string
 	count := map[string]int{}
 	for t := range l.all() {
@@ -69,17 +69,20 @@ func named(l text) ([]string, bool) {
 }
 
 // made answers a macro of those parameters and lines.
-func made(params []string, lines []line) macro {
-	return func(calling line) ([]line, api.Errno) {
-		args := calling.behind().split()
+func made(params []string, lines []Line) macro {
+	return func(calling Line) ([]Line, api.Errno) {
+		var args []*inner
+		for _, l := range calling.behind().Split() {
+			args = append(args, enclose(l))
+		}
 		if len(args) != len(params) {
 			return nil, api.ErrMany
 		}
 		fill := filler(params, args)
-		var out []line
+		var out []Line
 		for _, l := range lines {
-			if l := fill(l.text); len(l) > 0 {
-				out = append(out, line{at: calling.at, text: l})
+			if l := fill(l.Text); len(l) > 0 {
+				out = append(out, Line{At: calling.At, Text: l})
 			}
 		}
 		return out, api.OK
@@ -87,14 +90,14 @@ func made(params []string, lines []line) macro {
 }
 
 // filler answers what puts args into a text, where it has params, also within what stands there for another macro's parameters.
-func filler(params []string, args []*inner) func(l text) text {
+func filler(params []string, args []*inner) func(l Text) Text {
 	param := func(p part) int {
 		if !word(p.token) {
 			return -1
 		}
 		return slices.Index(params, p.token.Text)
 	}
-	var fill func(l text) text
+	var fill func(l Text) Text
 	// What is one inner text before it is one behind it, or it would be written out as often as it stands anywhere.
 	filled := map[*inner]*inner{}
 	again := func(in *inner) *inner {
@@ -115,8 +118,8 @@ func filler(params []string, args []*inner) func(l text) text {
 		}
 		return p, true
 	}
-	fill = func(l text) text {
-		out := make(text, 0, len(l))
+	fill = func(l Text) Text {
+		out := make(Text, 0, len(l))
 		for _, p := range l {
 			if p, ok := stand(p); ok {
 				out = append(out, p)
@@ -129,7 +132,7 @@ func filler(params []string, args []*inner) func(l text) text {
 
 // refill answers what fill makes of an inner text: nil, if that has no tokens. Its words alone tell whether it has,
 // so that it is not written out before its tokens are asked for.
-func refill(in *inner, fill func(l text) text, param func(p part) bool) *inner {
+func refill(in *inner, fill func(l Text) Text, param func(p part) bool) *inner {
 	if !slices.ContainsFunc(in.words(), param) {
 		return in
 	}
@@ -142,7 +145,7 @@ func refill(in *inner, fill func(l text) text, param func(p part) bool) *inner {
 	}
 	return &inner{
 		count: few + 1,
-		parts: once(func() text { return fill(in.parts()) }),
-		words: once(func() text { return distinct(words) }),
+		parts: once(func() Text { return fill(in.parts()) }),
+		words: once(func() Text { return distinct(words) }),
 	}
 }

@@ -10,9 +10,9 @@ import (
 // few is how many tokens an inner text may have to be written out at once: more than these take less room, if they are not.
 const few = 64
 
-// text is tokens, in turn. What stands for a parameter is one part of it, that is the same wherever it stands, and is written out as
+// Text is tokens, in turn. What stands for a parameter is one part of it, that is the same wherever it stands, and is written out as
 // late as may be: macros that hand on their parameters many times, again and again, would have more tokens than there is room for.
-type text []part
+type Text []part
 
 // part is a token, or, if there is one, an inner text.
 type part struct {
@@ -23,39 +23,39 @@ type part struct {
 // inner is a text that has tokens, but no comma.
 type inner struct {
 	count int // how many tokens it has, or, if it may have more than few, one more than these
-	parts func() text
-	words func() text // each word of it once, in turn, and one token for all that are no words
+	parts func() Text
+	words func() Text // each word of it once, in turn, and one token for all that are no words
 }
 
-// line is a text, and which line of the source it is of.
-type line struct {
-	text
-	at int
+// Line is a Text, and which line of the source it is of.
+type Line struct {
+	Text
+	At int
 }
 
-// read answers l as lines of texts.
-func read(l []api.Line) []line {
-	out := make([]line, len(l))
+// Read answers l as lines of texts.
+func Read(l []api.Line) []Line {
+	out := make([]Line, len(l))
 	for i, x := range l {
-		out[i].at = x.At
+		out[i].At = x.At
 		for _, t := range x.Tokens {
-			out[i].text = append(out[i].text, part{token: t})
+			out[i].Text = append(out[i].Text, part{token: t})
 		}
 	}
 	return out
 }
 
 // write answers the lines that texts are.
-func write(l []line) []api.Line {
+func write(l []Line) []api.Line {
 	var out []api.Line
 	for _, x := range l {
-		out = append(out, api.Line{At: x.at, Tokens: slices.Collect(x.all())})
+		out = append(out, api.Line{At: x.At, Tokens: slices.Collect(x.all())})
 	}
 	return out
 }
 
 // enclose answers l, that has no comma, as an inner text: nil, if it has no tokens.
-func enclose(l text) *inner {
+func enclose(l Text) *inner {
 	switch {
 	case len(l) == 0:
 		return nil
@@ -66,11 +66,11 @@ func enclose(l text) *inner {
 	if n <= few {
 		l = l.flat()
 	}
-	return &inner{count: n, parts: func() text { return l }, words: once(func() text { return distinct(l) })}
+	return &inner{count: n, parts: func() Text { return l }, words: once(func() Text { return distinct(l) })}
 }
 
 // count answers how many tokens a text has, or, if it may have more than few, one more than these.
-func (l text) count() int {
+func (l Text) count() int {
 	n := 0
 	for _, p := range l {
 		if n > few {
@@ -86,8 +86,8 @@ func (l text) count() int {
 }
 
 // flat answers a text without inner ones.
-func (l text) flat() text {
-	var out text
+func (l Text) flat() Text {
+	var out Text
 	for t := range l.all() {
 		out = append(out, part{token: t})
 	}
@@ -95,9 +95,9 @@ func (l text) flat() text {
 }
 
 // once answers what get does, which is called once alone; it must answer parts.
-func once(get func() text) func() text {
-	var out text
-	return func() text {
+func once(get func() Text) func() Text {
+	var out Text
+	return func() Text {
 		if out == nil {
 			out = get()
 		}
@@ -106,8 +106,8 @@ func once(get func() text) func() text {
 }
 
 // distinct answers each word of a text once, in turn, and one token for all that are no words.
-func distinct(l text) text {
-	var out text
+func distinct(l Text) Text {
+	var out Text
 	count := map[api.Token]int{}
 	take := func(t api.Token) {
 		if !word(t) {
@@ -132,9 +132,9 @@ func distinct(l text) text {
 }
 
 // all tells the tokens of a text one by one.
-func (l text) all() iter.Seq[api.Token] {
+func (l Text) all() iter.Seq[api.Token] {
 	return func(yield func(t api.Token) bool) {
-		rest := []text{l}
+		rest := []Text{l}
 		for len(rest) > 0 {
 			last := len(rest) - 1
 			l := rest[last]
@@ -155,7 +155,7 @@ func (l text) all() iter.Seq[api.Token] {
 }
 
 // head answers the first token, if that is a word, or else an empty text, that is nobody's head.
-func (l text) head() string {
+func (l Text) head() string {
 	if len(l) == 0 {
 		return ""
 	}
@@ -168,8 +168,8 @@ func (l text) head() string {
 	return l[0].token.Text
 }
 
-// next answers the first token, and what is behind it; of a text without tokens a token that is of no kind, and nothing.
-func (l text) next() (api.Token, text) {
+// Next answers the first token, and what is behind it; of a text without tokens a token that is of no kind, and nothing.
+func (l Text) Next() (api.Token, Text) {
 	if len(l) == 0 {
 		return api.Token{}, nil
 	}
@@ -177,7 +177,7 @@ func (l text) next() (api.Token, text) {
 		return l[0].token, l[1:]
 	}
 	behind := l[1:]
-	var within text
+	var within Text
 	for l[0].inner != nil {
 		l = l[0].inner.parts()
 		// What is left of each stays one part: texts would else be longer each time.
@@ -190,25 +190,25 @@ func (l text) next() (api.Token, text) {
 }
 
 // behind answers the text without its first token.
-func (l text) behind() text {
-	_, rest := l.next()
+func (l Text) behind() Text {
+	_, rest := l.Next()
 	return rest
 }
 
-// split answers what stands between commas: nothing, if there is no token at all.
-func (l text) split() []*inner {
+// Split answers what stands between commas: nothing, if there is no token at all.
+func (l Text) Split() []Text {
 	if len(l) == 0 {
 		return nil
 	}
-	var out []*inner
+	var out []Text
 	from := 0
 	for i, p := range l {
 		if p.inner == nil && comma(p.token) {
-			out = append(out, enclose(l[from:i]))
+			out = append(out, l[from:i])
 			from = i + 1
 		}
 	}
-	return append(out, enclose(l[from:]))
+	return append(out, l[from:])
 }
 
 func comma(t api.Token) bool { return t.Kind == api.TokSign && t.Text == "," }
@@ -216,9 +216,9 @@ func comma(t api.Token) bool { return t.Kind == api.TokSign && t.Text == "," }
 func word(t api.Token) bool { return t.Kind == api.TokWord }
 
 // fault answers what is wrong at a line, or that nothing is.
-func (l line) fault(err api.Errno) api.Fault {
+func (l Line) fault(err api.Errno) api.Fault {
 	if err == api.OK {
 		return api.Fault{}
 	}
-	return api.Fault{Err: err, At: l.at}
+	return api.Fault{Err: err, At: l.At}
 }

@@ -13,14 +13,21 @@ type place struct {
 
 // reading is a text of which a part is read, what that does to an expression, and where the text stands.
 type reading struct {
-	rest text
+	rest Text
 	part *expr.Part
 	at   place
 }
 
-// value answers the value that all of l is. What an inner text does to an expression is told once for all places of one kind: an expression
+// First answers what the expression is that l begins with, as long as may be, and whether that is all of l.
+func (l Text) First(equs []api.Equ) (api.Value, bool, api.Errno) {
+	p := l.expression(equs)
+	v, err := p.First()
+	return v, err == api.OK && p.Err() == api.OK, err
+}
+
+// expression answers what l is as one. What an inner text does to it is told once for all places of one kind: an expression
 // may have more tokens than there is time for. Those within others lie in a list, as they may be more than calls can be within one another.
-func value(l text, equs []api.Equ) (api.Value, api.Errno) {
+func (l Text) expression(equs []api.Equ) *expr.Part {
 	known := map[place]*expr.Part{}
 	open := []reading{{rest: l, part: expr.From(expr.Spot{}, equs)}}
 	for {
@@ -28,7 +35,7 @@ func value(l text, equs []api.Equ) (api.Value, api.Errno) {
 		r := &open[last]
 		switch {
 		case last == 0 && r.read():
-			return r.part.Value()
+			return r.part
 		case r.read():
 			known[r.at] = r.part
 			open = open[:last]
