@@ -11,6 +11,7 @@ import (
 	"platelayer/asm"
 	"platelayer/expr"
 	"platelayer/isa"
+	"platelayer/macro"
 	"platelayer/scan"
 )
 
@@ -476,6 +477,35 @@ func TestE3HoldsAgainstPlainListsWhereAllBranch(t *testing.T) {
 		}
 		if err := hold(t, joined(l...)); err != api.OK {
 			t.Errorf("of %v it is %v", n, err)
+		}
+	}
+}
+
+// TestE1UnitHoldsAgainstPlainLists: lines of macros, that Unit does not write out, are what Expand writes.
+func TestE1UnitHoldsAgainstPlainLists(t *testing.T) {
+	m := maker{rand.New(rand.NewSource(9))}
+	within := []string{"m #1,r1", "m =x x,r1", "mov.l x,y", "mov x , y", ".long x", ".long y", "bra y x", "y: x", "x", "a: nop", "k x x", "k + 1", "k a :", ".long 1 x", "k * x", ".align 4", "m y,x"}
+	around := append([]string{".rept 2", ".endr", ".if n", ".else", ".endif", ".equ n, 2", ".macro h x", ".endm"}, within...)
+	seen := map[api.Errno]int{}
+	for range 50000 {
+		l := []string{".macro m x y", m.pick(within...), m.pick(within...), ".endm", ".macro k x", m.pick(within...), ".endm"}
+		for range 1 + m.Intn(6) {
+			l = append(l, m.pick(around...))
+		}
+		s := joined(l...)
+		out, equs, f := macro.Expand(lines(t, s))
+		var o api.Object
+		if f.Err == api.OK {
+			o, f = plainly(out, equs)
+		}
+		if p, g := asm.Unit([]byte(s)); !same(o, p) || f != g {
+			t.Fatalf("%q is\n%v %v, not\n%v %v", s, p, g, o, f)
+		}
+		seen[f.Err]++
+	}
+	for _, err := range []api.Errno{api.OK, api.ErrKind, api.ErrForm, api.ErrNone, api.ErrName, api.ErrFit, api.ErrDeep} {
+		if seen[err] < 20 {
+			t.Errorf("%v comes %v times alone", err, seen[err])
 		}
 	}
 }
