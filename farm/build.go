@@ -9,13 +9,21 @@ import (
 
 // Build answers the image that comes of sources, which one alone builds, or the first fault, at the source's number.
 func Build(l [][]byte, base int) (api.Image, api.Fault) {
+	return linked(len(l), base, func(k int) (api.Object, api.Errno) { return built(l[k]) })
+}
+
+// linked answers the image of so many units, whose objects are told one by one, or the first one's error, at its number.
+func linked(units, base int, object func(k int) (api.Object, api.Errno)) (api.Image, api.Fault) {
 	var out []api.Object
-	for k, source := range l {
-		o, err := built(source)
+	for k := range units {
+		o, err := object(k)
 		if err != api.OK {
 			return api.Image{}, api.Fault{Err: err, At: k}
 		}
-		out = append(out, o)
+		// One more than may be linked is enough to be too many: the others need no room.
+		if len(out) <= api.MaxUnits {
+			out = append(out, o)
+		}
 	}
 	return link.Link(out, base)
 }
